@@ -37,7 +37,8 @@ func plain(s string) bool {
 	return s[0] != '#'
 }
 
-func slashed(s string) string {
+// Slashed quotes a text with a backslash before each special byte.
+func Slashed(s string) string {
 	var b strings.Builder
 	for i := range len(s) {
 		c := s[i]
@@ -62,5 +63,5 @@ func Quote(s string) string {
 	case balanced(s):
 		return "{" + s + "}"
 	}
-	return slashed(s)
+	return Slashed(s)
 }
