@@ -158,17 +158,17 @@ func TestTelling(t *testing.T) {
 // What later layers ask of cells.
 func TestCells(t *testing.T) {
 	s := New()
-	c, e := s.Find(0, "a(1)")
-	want(t, "Find", all(e, s.Kind(0, "a"), c.Array() == s.Peek(0, "a"), s.Peek(0, "q") == nil, len(c.Array().Elements())), "0 0 true true 1")
+	c, e := s.Find(0, Parted("a(1)"))
+	want(t, "Find", all(e, s.Kind(0, "a"), c.Array() == s.Peek(0, Parted("a")), s.Peek(0, Parted("q")) == nil, len(c.Array().Elements())), "0 0 true true 1")
 	s.Set(0, "a(1)", "x")
 	s.Unset(0, "a")
-	if s.Peek(0, "a(1)") != c {
+	if s.Peek(0, Parted("a(1)")) != c {
 		t.Error("the cell stays")
 	}
-	_, e = s.Find(9, "a")
+	_, e = s.Find(9, Parted("a"))
 	want(t, "Find in no scope", e, api.ErrRange)
 	s.Set(0, "b", "1")
-	_, e = s.Find(0, "b(1)")
+	_, e = s.Find(0, Parted("b(1)"))
 	want(t, "Find of an element of a scalar", e, api.ErrKind)
 	s.Clear(0)
 	want(t, "Clear", len(s.Names(0, "*")), 0)
