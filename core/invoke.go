@@ -1,6 +1,9 @@
 package core
 
 import (
+	"maps"
+	"slices"
+
 	"threadbare/api"
 	"threadbare/list"
 	"threadbare/names"
@@ -257,3 +260,16 @@ func (x *Machine) tellGone(numbers []int, olds []string) Result {
 
 // Join returns the canonical list of elements.
 func Join(l []string) Result { return Long(list.Join(l)) }
+
+// InstallAll lays the commands of a layer.
+func (x *Machine) InstallAll(commands map[string]Entry) {
+	for _, name := range Sorted(commands) {
+		c := commands[name]
+		x.Install(name, c.Least, c.Most, c.Do)
+	}
+}
+
+// Sorted returns the names of a layer's commands, ascending.
+func Sorted[T any](commands map[string]T) []string {
+	return slices.Sorted(maps.Keys(commands))
+}
