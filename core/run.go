@@ -231,3 +231,9 @@ func (x *Machine) Condition(s string) (bool, Result) {
 	yes, problem := expr.Truth(r.Text)
 	return yes, Problem(problem)
 }
+
+// TruthOf returns whether a text is true.
+func TruthOf(s string) (bool, Result) {
+	yes, problem := expr.Truth(s)
+	return yes, Problem(problem)
+}
