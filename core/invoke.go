@@ -142,7 +142,7 @@ func (x *Machine) Do(number int, words []string) Result {
 		}
 	}
 	r := x.do(number, words)
-	if x.Hooks.Leave != nil {
+	if x.Hooks.Watched != nil && x.Hooks.Watched(x, number) {
 		r = x.resolved(r)
 	}
 	if gone := x.cut(); gone != nil && r.Code != api.CStop {

@@ -39,6 +39,7 @@ type Hooks struct {
 	Gone    func(x *Machine, numbers []int, olds []string) Result
 	Enter   func(x *Machine, number int, words []string) Result
 	Leave   func(x *Machine, number int, words []string, r Result) Result
+	Watched func(x *Machine, number int) bool
 }
 
 // Family is what all machines of a family share: the steps that are left, the scripts that are being evaluated, and whether any variable was ever traced.
@@ -46,6 +47,7 @@ type Family struct {
 	Steps  int
 	Depth  int
 	Traced bool
+	Busy   map[*vars.Cell]bool // variables whose traces are being done
 }
 
 // Machine evaluates scripts.
@@ -80,7 +82,7 @@ type Nest struct {
 // New returns a machine with the commands of layer 19, and those that installers lay.
 func New(installers ...func(x *Machine)) *Machine {
 	x := &Machine{
-		Family:     &Family{},
+		Family:     &Family{Busy: map[*vars.Cell]bool{}},
 		vars:       vars.New(),
 		tree:       names.New(),
 		table:      table.New(),
