@@ -65,6 +65,7 @@ type Machine struct {
 	faces    faces
 
 	installers []func(x *Machine)
+	Unsafe     []string // the commands that a safe child has hidden
 	state      map[string]any
 	Nest
 }
@@ -105,6 +106,7 @@ func New(installers ...func(x *Machine)) *Machine {
 func (x *Machine) Twin() *Machine {
 	y := New(x.installers...)
 	y.Family = x.Family
+	y.faces.on = x.faces.on
 	return y
 }
 
