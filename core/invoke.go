@@ -89,6 +89,9 @@ func (x *Machine) resolved(r Result) Result {
 	return r
 }
 
+// Resolved does the tail calls of a procedure that has ended.
+func (x *Machine) Resolved(r Result) Result { return x.resolved(r) }
+
 // once does a command; its own tail call is not done.
 func (x *Machine) once(space string, words []string) Result {
 	if len(words) == 0 {
