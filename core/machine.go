@@ -281,3 +281,6 @@ func (x *Machine) List(s string) ([]string, Result) {
 	l, _, e := list.Split(s)
 	return l, ListError(e, s)
 }
+
+// Alive reports whether the machine was made by New.
+func (x *Machine) Alive() bool { return x != nil && x.Family != nil && x.state != nil }
