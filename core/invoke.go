@@ -92,6 +92,9 @@ func (x *Machine) resolved(r Result) Result {
 // Resolved does the tail calls of a procedure that has ended.
 func (x *Machine) Resolved(r Result) Result { return x.resolved(r) }
 
+// InvokeAny is Invoke in ::, however many words there are.
+func (x *Machine) InvokeAny(words []string) Result { return x.resolved(x.first("::", words)) }
+
 // once does a command; its own tail call is not done.
 func (x *Machine) once(space string, words []string) Result {
 	if len(words) == 0 {
@@ -100,6 +103,11 @@ func (x *Machine) once(space string, words []string) Result {
 	if len(words) > api.MaxList {
 		return Error("long")
 	}
+	return x.first(space, words)
+}
+
+// first does the command of the first one of some words.
+func (x *Machine) first(space string, words []string) Result {
 	if r := x.Step(); !r.Good() {
 		return r
 	}

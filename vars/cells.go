@@ -20,6 +20,7 @@ type Cell struct {
 	elements map[string]*Cell
 	owner    *Cell // of an element: its array
 	kept     bool  // something leads to it: it stays while it is unset
+	changes  int
 	Note     any
 }
 
@@ -52,10 +53,14 @@ func (c *Cell) set(value string) api.Errno {
 		c.owner.becomeArray()
 	}
 	c.kind, c.value = scalar, value
+	c.changes++
 	return api.OK
 }
 
 func (c *Cell) becomeArray() {
+	if c.kind != array {
+		c.changes++
+	}
 	c.kind = array
 	if c.elements == nil {
 		c.elements = map[string]*Cell{}
@@ -77,7 +82,11 @@ func (c *Cell) element(index string, wanted bool) *Cell {
 
 // clear makes the cell, and all its elements, unset.
 func (c *Cell) clear() {
+	c.changes++
 	for index, e := range c.elements {
+		if e.kind != unset {
+			e.changes++
+		}
 		e.kind, e.value = unset, ""
 		if !e.kept {
 			delete(c.elements, index)
@@ -114,3 +123,6 @@ func (c *Cell) Elements() []*Cell {
 
 // Array returns the array of an element; nil for what is none.
 func (c *Cell) Array() *Cell { return c.owner }
+
+// Changes returns how often the cell was set or unset.
+func (c *Cell) Changes() int { return c.changes }
