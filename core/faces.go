@@ -1,8 +1,11 @@
 package core
 
 import (
+	"slices"
+
 	"threadbare/api"
 	"threadbare/code"
+	"threadbare/list"
 )
 
 // maxFaces is how much code is kept at most; beyond it all is made anew.
@@ -17,19 +20,31 @@ type made struct {
 // meaning is what a name means in a namespace.
 type meaning struct{ space, name string }
 
+// listFace is the elements of a text; canonical, if the text is their canonical list.
+type listFace struct {
+	elements  []string
+	canonical bool
+}
+
+const (
+	maxLists  = 64
+	shortList = 128 // below this a text is split as fast as it is looked up
+)
+
 // faces is what the machine keeps hidden: the code of scripts and expressions by their texts, and what names mean as long as nothing changes.
 type faces struct {
 	on       bool
 	scripts  map[string]made
 	exprs    map[string]made
 	found    map[meaning]int
+	lists    map[string]listFace
 	epoch    int
 	lastTree int
 	tree     int // how often the namespaces were changed
 }
 
 func (f *faces) forget() {
-	f.scripts, f.exprs, f.found = nil, nil, nil
+	f.scripts, f.exprs, f.found, f.lists = nil, nil, nil, nil
 }
 
 // kept returns the code of a text, made if it is not there.
@@ -85,4 +100,60 @@ func (x *Machine) search(space, name string) int {
 		}
 	}
 	return 0
+}
+
+// keepList keeps the elements of a text.
+func (f *faces) keepList(s string, l listFace) {
+	if !f.on || len(s) < shortList {
+		return
+	}
+	if f.lists == nil || len(f.lists) >= maxLists {
+		f.lists = map[string]listFace{}
+	}
+	f.lists[s] = l
+}
+
+// face returns the elements of a text, which must not be changed.
+func (x *Machine) face(s string) (listFace, Result) {
+	if len(s) >= shortList {
+		if l, ok := x.faces.lists[s]; ok {
+			return l, OK("")
+		}
+	}
+	l, _, e := list.Split(s)
+	if e == api.OK {
+		x.faces.keepList(s, listFace{elements: l})
+	}
+	return listFace{elements: l}, ListError(e, s)
+}
+
+// Elements returns the elements of a text, which must not be changed.
+func (x *Machine) Elements(s string) ([]string, Result) {
+	l, r := x.face(s)
+	return l.elements, r
+}
+
+// List returns the elements of a text.
+func (x *Machine) List(s string) ([]string, Result) {
+	l, r := x.face(s)
+	return slices.Clone(l.elements), r
+}
+
+// Appended returns the canonical list of the elements of a text and of others.
+func (x *Machine) Appended(s string, words []string) Result {
+	l, r := x.face(s)
+	if !r.Good() {
+		return r
+	}
+	all := append(slices.Clip(l.elements), words...)
+	if !l.canonical || len(all) > api.MaxList {
+		r = Join(all)
+	} else if r = Join(words); r.Good() && s != "" {
+		r = OK(s + " " + r.Text)
+	}
+	if !r.Good() || len(r.Text) > api.MaxText {
+		return Error("long")
+	}
+	x.faces.keepList(r.Text, listFace{all, true})
+	return r
 }

@@ -5,7 +5,6 @@ import (
 	"strings"
 
 	"threadbare/api"
-	"threadbare/list"
 	"threadbare/names"
 	"threadbare/table"
 	"threadbare/text"
@@ -274,12 +273,6 @@ func (x *Machine) Table() *table.Table { return x.table }
 func (x *Machine) Entry(number int) *Entry {
 	origin, _ := x.table.Origin(number)
 	return x.commands[origin]
-}
-
-// List returns the elements of a text.
-func (x *Machine) List(s string) ([]string, Result) {
-	l, _, e := list.Split(s)
-	return l, ListError(e, s)
 }
 
 // Alive reports whether the machine was made by New.

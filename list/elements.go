@@ -66,8 +66,15 @@ func readBare(s string) (string, int) { return upTo(s, text.White) }
 
 // upTo reads bytes up to one that ends them, escaped bytes replaced.
 func upTo(s string, ends func(byte) bool) (string, int) {
-	var b strings.Builder
 	at := 0
+	for at < len(s) && s[at] != '\\' && !ends(s[at]) {
+		at++
+	}
+	if at == len(s) || s[at] != '\\' {
+		return s[:at], at
+	}
+	var b strings.Builder
+	b.WriteString(s[:at])
 	for at < len(s) && !ends(s[at]) {
 		c, n := text.Unescape(s[at:])
 		if n == 0 {
@@ -82,7 +89,7 @@ func upTo(s string, ends func(byte) bool) (string, int) {
 // elements gives the elements of a list with their places, up to one that is wrong.
 func elements(s string) iter.Seq2[int, element] {
 	return func(yield func(int, element) bool) {
-		at := 0
+		at, read := 0, readers()
 		for {
 			for at < len(s) && text.White(s[at]) {
 				at++
@@ -90,7 +97,7 @@ func elements(s string) iter.Seq2[int, element] {
 			if at == len(s) {
 				return
 			}
-			inner, n := readers()[kindOf(s[at])](s[at:])
+			inner, n := read[kindOf(s[at])](s[at:])
 			right := n > 0 && (at+n == len(s) || text.White(s[at+n]))
 			if !right {
 				inner = ""

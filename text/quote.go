@@ -25,7 +25,11 @@ func balanced(s string) bool {
 }
 
 func special(c byte) bool {
-	return White(c) || strings.IndexByte("\"\\{}$[];", c) >= 0
+	switch c {
+	case '\t', '\n', '\v', '\f', '\r', ' ', '"', '\\', '{', '}', '$', '[', ']', ';':
+		return true
+	}
+	return false
 }
 
 func plain(s string) bool {
