@@ -8,8 +8,11 @@ import (
 	"threadbare/list"
 )
 
-// maxFaces is how much code is kept at most; beyond it all is made anew.
-const maxFaces = 4000
+// maxFaces and maxKept are how many texts, and how many bytes of them, are kept with their code at most; beyond it all is made anew.
+const (
+	maxFaces = 4000
+	maxKept  = 8000000
+)
 
 // made is the code of a text, or the error of one that is wrong.
 type made struct {
@@ -34,6 +37,7 @@ const (
 // faces is what the machine keeps hidden: the code of scripts and expressions by their texts, and what names mean as long as nothing changes.
 type faces struct {
 	on       bool
+	kept     int // bytes of the texts whose code is kept
 	scripts  map[string]made
 	exprs    map[string]made
 	found    map[meaning]int
@@ -44,29 +48,35 @@ type faces struct {
 }
 
 func (f *faces) forget() {
+	f.kept = 0
 	f.scripts, f.exprs, f.found, f.lists = nil, nil, nil, nil
 }
 
-// kept returns the code of a text, made if it is not there.
-func kept(m *map[string]made, on bool, s string, make func(s string) ([]api.Instr, int, api.Errno)) made {
-	if c, ok := (*m)[s]; ok {
+// code returns the code of a text, made if it is not there.
+func (f *faces) code(of *map[string]made, s string, make func(s string) ([]api.Instr, int, api.Errno)) made {
+	if c, ok := (*of)[s]; ok {
 		return c
 	}
 	l, _, e := make(s)
 	c := made{l, e}
-	if !on {
+	if !f.on {
 		return c
 	}
-	if *m == nil || len(*m) >= maxFaces {
-		*m = map[string]made{}
+	f.kept += len(s)
+	if f.kept > maxKept || len(*of) >= maxFaces {
+		f.forget()
+		f.kept = len(s)
 	}
-	(*m)[s] = c
+	if *of == nil {
+		*of = map[string]made{}
+	}
+	(*of)[s] = c
 	return c
 }
 
-func (f *faces) script(s string) made { return kept(&f.scripts, f.on, s, code.Script) }
+func (f *faces) script(s string) made { return f.code(&f.scripts, s, code.Script) }
 
-func (f *faces) expr(s string) made { return kept(&f.exprs, f.on, s, code.Expr) }
+func (f *faces) expr(s string) made { return f.code(&f.exprs, s, code.Expr) }
 
 // TreeChanged notes that namespaces came, went or are searched otherwise.
 func (x *Machine) TreeChanged() { x.faces.tree++ }

@@ -77,33 +77,38 @@ func (q *queue) named(name string) waiting {
 	return q.list[i]
 }
 
-// remove takes away what is called so; false if it is not there.
-func (q *queue) remove(name string) bool {
-	before := len(q.list)
-	q.list = slices.DeleteFunc(slices.Clone(q.list), func(w waiting) bool { return w.called() == name })
-	return len(q.list) < before
+// remove takes away what is called so, if it is there.
+func (q *queue) remove(name string) {
+	if i := slices.IndexFunc(q.list, func(w waiting) bool { return w.called() == name }); i >= 0 {
+		q.list = slices.Delete(q.list, i, i+1)
+	}
 }
 
 // earliest returns the first element that none is ahead of; false if there are none.
-func earliest[T any](l []T, compare func(a, b T) int) (r T, ok bool) {
-	for i, x := range l {
-		if i == 0 || compare(x, r) < 0 {
-			r = x
+func earliest[T any](l iter.Seq[T], compare func(a, b T) int) (r T, ok bool) {
+	for x := range l {
+		if !ok || compare(x, r) < 0 {
+			r, ok = x, true
 		}
 	}
-	return r, len(l) > 0
+	return r, ok
+}
+
+// timers gives the timers, in the order in which they were made.
+func (q *queue) timers(yield func(t *timer) bool) {
+	for _, w := range q.list {
+		switch w := w.(type) {
+		case *timer:
+			if !yield(w) {
+				return
+			}
+		}
+	}
 }
 
 // next returns the timer that is due earliest.
 func (q *queue) next() (*timer, bool) {
-	var l []*timer
-	for _, w := range q.list {
-		switch w := w.(type) {
-		case *timer:
-			l = append(l, w)
-		}
-	}
-	return earliest(l, func(a, b *timer) int { return cmp.Compare(a.due, b.due) })
+	return earliest(q.timers, func(a, b *timer) int { return cmp.Compare(a.due, b.due) })
 }
 
 // ready gives the channel scripts that are to be done, with how many raw bytes wait.
