@@ -85,7 +85,7 @@ func TestPlaces(t *testing.T) {
 		e             api.Errno
 	}{
 		{"a {b {c d}}", "1 1 end", "d", 0}, {"a", "", "a", 0}, {"{", "", "{", 0}, {"a b", "2", "", 0}, {"a b", "-1", "", 0}, {"a b", "5 3 2", "", 0}, {"a b", "5 x", "", api.ErrSyntax}, {"{", "0", "", api.ErrSyntax}, {"a \\{", "1 0", "", api.ErrSyntax},
-		{many(10001), "0", "", api.ErrLimit}, {many(10001), "0 x", "", api.ErrSyntax}, {"a b", "end-1", "a", 0},
+		{many(10001), "0", "", api.ErrLimit}, {many(10001), "0 x", "", api.ErrSyntax}, {many(10001) + "\\{", "10001 0", "", api.ErrSyntax}, {"a b", "end-1", "a", 0},
 	} {
 		s, e := Index(c.s, strings.Fields(c.path))
 		is(t, "Index "+c.path, s, e, c.want, c.e)
@@ -95,7 +95,7 @@ func TestPlaces(t *testing.T) {
 		e             api.Errno
 	}{
 		{"a  {b  c}", "1 0", "a {{x y} c}", 0}, {"a", "", "x y", 0}, {"a b", "2", "a b {x y}", 0}, {"a b", "3", "", api.ErrRange}, {"a b", "-1", "", api.ErrRange}, {"a", "1 0", "a {{x y}}", 0}, {"a", "1 1", "", api.ErrRange}, {"a", "9 x", "", api.ErrSyntax}, {"{", "0", "", api.ErrSyntax},
-		{"a", "end+1", "a {x y}", 0}, {"", "0", "{x y}", 0}, {many(10001), "0", "", api.ErrLimit}, {many(10000), "10000", "", api.ErrLimit},
+		{"a", "end+1", "a {x y}", 0}, {"", "0", "{x y}", 0}, {many(10001), "0", "", api.ErrLimit}, {many(10001), "20000", "", api.ErrRange}, {many(10001) + "\\{", "10001 0", "", api.ErrSyntax}, {many(10000), "10000", "", api.ErrLimit},
 	} {
 		s, e := Set(c.s, strings.Fields(c.path), "x y")
 		is(t, "Set "+c.path, s, e, c.want, c.e)
@@ -161,7 +161,7 @@ func TestSorted(t *testing.T) {
 	}{
 		{"10 9 1", 1, false, false, "1 9 10", 0}, {"10 9 1", 0, false, false, "1 10 9", 0}, {"b B a A", 2, false, false, "a A b B", 0}, {"b B a A", 2, true, false, "b B a A", 0}, {"b B a A", 2, false, true, "A B", 0}, {"b B a A", 2, true, true, "B A", 0}, {"01 1 -0 0", 1, false, true, "0 1", 0},
 		{"a", 1, false, false, "", api.ErrKind}, {"+1", 1, false, false, "", api.ErrKind}, {"-", 1, false, false, "", api.ErrKind}, {"{}", 1, false, false, "", api.ErrKind}, {"1234567890123456789", 1, false, false, "", api.ErrKind}, {"-999999999999999999 999999999999999999", 1, true, false, "999999999999999999 -999999999999999999", 0},
-		{"{", 3, false, false, "", api.ErrInvalid}, {"", -1, false, false, "", api.ErrInvalid}, {"{", 1, false, false, "", api.ErrSyntax}, {many(10001), 1, false, false, "", api.ErrLimit}, {"", 0, true, true, "", 0},
+		{"{", 3, false, false, "", api.ErrInvalid}, {"", -1, false, false, "", api.ErrInvalid}, {"{", 1, false, false, "", api.ErrSyntax}, {many(10001), 1, false, false, "", api.ErrKind}, {strings.Repeat("1 ", 10001), 1, false, true, "", api.ErrLimit}, {many(10001), 0, false, true, "", api.ErrLimit}, {"", 0, true, true, "", 0},
 	} {
 		s, e := Sort(c.s, c.kind, c.down, c.unique)
 		is(t, "Sort of "+c.s[:min(9, len(c.s))], s, e, c.want, c.e)
@@ -183,6 +183,10 @@ func TestSorted(t *testing.T) {
 	is(t, "Flat", s, e, "a b {c d}", 0)
 	_, e = Flat("a {{}x}")
 	is(t, "Flat", "", e, "", api.ErrSyntax)
+	_, e = Flat(many(10001) + "\\{")
+	is(t, "Flat", "", e, "", api.ErrSyntax)
+	_, e = Flat(many(10001))
+	is(t, "Flat", "", e, "", api.ErrLimit)
 	_, e = Flat("{" + many(10001) + "} {{}x}")
 	is(t, "Flat", "", e, "", api.ErrSyntax)
 	_, e = Flat("{" + many(6000) + "} {" + many(6000) + "}")

@@ -45,7 +45,7 @@ func Sort(s string, kind int, down, unique bool) (string, api.Errno) {
 	if kind < 0 || kind > 2 {
 		return "", api.ErrInvalid
 	}
-	l, _, e := Split(s)
+	l, _, e := all(s)
 	if e != api.OK {
 		return "", e
 	}
@@ -53,6 +53,9 @@ func Sort(s string, kind int, down, unique bool) (string, api.Errno) {
 		if kind == 1 && !isNumber(s) {
 			return "", api.ErrKind
 		}
+	}
+	if e := tooMany(l); e != api.OK {
+		return "", e
 	}
 	compare := order(kind)
 	if down {
