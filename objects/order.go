@@ -35,33 +35,22 @@ func (g graph[T]) circular(class T) bool {
 	return walk(class)
 }
 
-// order returns the class and those above it; of several places the last one counts.
+// order returns the class and those above it; of several places the last one counts. So it is made from its end: the first place counts there.
 func (g graph[T]) order(class T) []T {
-	known := map[T][]T{}
-	var walk func(c T) []T
-	walk = func(c T) []T {
-		if l, ok := known[c]; ok {
-			return l
-		}
-		l := []T{c}
-		for _, s := range g.supers(c) {
-			l = append(l, walk(s)...)
-		}
-		known[c] = lastPlaces(l)
-		return known[c]
-	}
-	return slices.Clone(walk(class))
-}
-
-func lastPlaces[T comparable](l []T) []T {
 	seen := map[T]bool{}
 	var r []T
-	for _, c := range slices.Backward(l) {
-		if !seen[c] {
-			seen[c] = true
-			r = append(r, c)
+	var walk func(c T)
+	walk = func(c T) {
+		if seen[c] {
+			return
 		}
+		for _, s := range slices.Backward(g.supers(c)) {
+			walk(s)
+		}
+		seen[c] = true
+		r = append(r, c)
 	}
+	walk(class)
 	slices.Reverse(r)
 	return r
 }
