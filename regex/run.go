@@ -4,6 +4,7 @@ import (
 	"iter"
 
 	"threadbare/api"
+	"threadbare/text"
 )
 
 // passed is how a group was passed: where it begins now, and its span; one more than the indexes, so that 0 is none.
@@ -12,13 +13,37 @@ type passed struct{ begin, from, to int }
 // groups are all groups.
 type groups [maxGroups]passed
 
-// maxRead is how many groups a back reference can read.
-const maxRead = 9
+const (
+	// maxRead is how many groups a back reference can read.
+	maxRead = 9
+	// maxTried is how much is kept of what was tried in vain with back references.
+	maxTried = 1 << 22
+)
 
-// spot is what was tried in vain: an instruction at a place; made of the times around have taken something. groups are told only where back references read them.
+// seen is what counts of a group for what is tried: where it begins now, and the number of the bytes that it was.
+type seen struct{ begin, bytes int32 }
+
+// spot is what was tried in vain where back references read groups: an instruction at a place (told as a lane), and those groups.
 type spot struct {
 	lane, at int
-	groups   [maxRead]passed
+	groups   [maxRead]seen
+}
+
+// mark is what was tried without back references.
+type mark struct{ lane, at int }
+
+// trail is what is being tried, from the beginning of a way on: in one of both forms.
+type trail struct {
+	marks []mark
+	spots []spot
+}
+
+func (t *trail) length() int { return len(t.marks) + len(t.spots) }
+
+// cut leaves the first ones.
+func (t *trail) cut(length int) {
+	t.marks = t.marks[:min(length, len(t.marks))]
+	t.spots = t.spots[:min(length, len(t.spots))]
 }
 
 // matcher searches in one text.
@@ -33,11 +58,12 @@ type matcher struct {
 	// What was tried in vain stays so for later searches. Without back references a bit tells it, otherwise the map.
 	bits  [][]uint64
 	tried map[spot]bool
-	looks map[spot]bool
+	texts map[string]int32 // the numbers of the bytes that groups were
+	looks map[mark]bool
 }
 
 func newMatcher(p pattern, s string, fold, lines bool) *matcher {
-	m := &matcher{program: compile(p.root, fold, lines), s: s, count: p.groups, tried: map[spot]bool{}, looks: map[spot]bool{}}
+	m := &matcher{program: compile(p.root, fold, lines), s: s, count: p.groups, tried: map[spot]bool{}, texts: map[string]int32{}, looks: map[mark]bool{}}
 	m.bits = make([][]uint64, m.lanes)
 	for _, i := range m.list {
 		if i.op == opBack {
@@ -55,53 +81,74 @@ type task struct {
 	old          passed
 }
 
-func (m *matcher) spot(lane, at int) spot {
-	k := spot{lane: lane, at: at}
+// begin notes down that something is tried; false if it was tried before.
+func (m *matcher) begin(lane, at int, t *trail) bool {
 	if m.reads {
-		for i, read := range m.read {
-			if read {
-				k.groups[i] = m.groups[i]
-			}
-		}
+		return m.beginFar(lane, at, t)
 	}
-	return k
-}
-
-// mark notes down that something is tried; false if it was tried before.
-func (m *matcher) mark(k spot) bool {
-	if m.reads {
-		if m.tried[k] {
-			return false
-		}
-		m.tried[k] = true
-		return true
+	if m.bits[lane] == nil {
+		m.bits[lane] = make([]uint64, len(m.s)/64+1)
 	}
-	if m.bits[k.lane] == nil {
-		m.bits[k.lane] = make([]uint64, len(m.s)/64+1)
-	}
-	word := &m.bits[k.lane][k.at/64]
-	if *word>>(k.at%64)&1 == 1 {
+	word := &m.bits[lane][at/64]
+	if *word>>(at%64)&1 == 1 {
 		return false
 	}
-	*word |= 1 << (k.at % 64)
+	*word |= 1 << (at % 64)
+	t.marks = append(t.marks, mark{lane, at})
 	return true
 }
 
-// unmark takes back what was not in vain.
-func (m *matcher) unmark(trail []spot) {
-	for _, k := range trail {
-		if m.reads {
-			delete(m.tried, k)
-		} else {
-			m.bits[k.lane][k.at/64] &^= 1 << (k.at % 64)
+// beginFar is begin where what groups were passed as counts, too.
+func (m *matcher) beginFar(lane, at int, t *trail) bool {
+	k := spot{lane: lane, at: at}
+	for i, read := range m.read {
+		if read {
+			k.groups[i] = m.seen(m.groups[i])
 		}
+	}
+	if m.tried[k] {
+		return false
+	}
+	if len(m.tried) >= maxTried {
+		// What is forgotten is only tried again.
+		clear(m.tried)
+	}
+	m.tried[k] = true
+	t.spots = append(t.spots, k)
+	return true
+}
+
+// seen returns what counts of a group: of several places with the same bytes any does the same.
+func (m *matcher) seen(g passed) seen {
+	if g.from == 0 {
+		return seen{begin: int32(g.begin)}
+	}
+	bytes := m.s[g.from-1 : g.to-1]
+	if m.fold {
+		bytes = text.Lower(bytes)
+	}
+	n, known := m.texts[bytes]
+	if !known {
+		n = int32(len(m.texts) + 1)
+		m.texts[bytes] = n
+	}
+	return seen{int32(g.begin), n}
+}
+
+// unmark takes back what was not in vain.
+func (m *matcher) unmark(t *trail) {
+	for _, k := range t.marks {
+		m.bits[k.lane][k.at/64] &^= 1 << (k.at % 64)
+	}
+	for _, k := range t.spots {
+		delete(m.tried, k)
 	}
 }
 
 // run looks for the first way of an instruction from a place on, and returns its end; -1 if there is none.
 func (m *matcher) run(pc, at int) int {
 	stack := []task{{pc: pc, at: at}}
-	var trail []spot
+	var way trail
 	for len(stack) > 0 {
 		t := stack[len(stack)-1]
 		stack = stack[:len(stack)-1]
@@ -109,25 +156,20 @@ func (m *matcher) run(pc, at int) int {
 			m.groups[t.pc] = t.old
 			continue
 		}
-		trail = trail[:t.trail]
-		if end := m.follow(t, &stack, &trail); end >= 0 {
-			m.unmark(trail)
+		way.cut(t.trail)
+		if end := m.follow(t, &stack, &way); end >= 0 {
+			m.unmark(&way)
 			return end
 		}
 	}
 	return -1
 }
 
-// follow goes on from a task up to an end of the pattern, or until it is in vain (-1).
-func (m *matcher) follow(t task, stack *[]task, trail *[]spot) int {
+// follow goes on from a task up to an end of the pattern, or until it is in vain (-1). Only choices are noted down: what lies between two of them is short.
+func (m *matcher) follow(t task, stack *[]task, way *trail) int {
 	pc, at, made := t.pc, t.at, t.made
 	for {
 		i := &m.list[pc]
-		k := m.spot(i.lane+made, at)
-		if !m.mark(k) {
-			return -1
-		}
-		*trail = append(*trail, k)
 		pc++
 		switch i.op {
 		case opByte:
@@ -137,7 +179,10 @@ func (m *matcher) follow(t task, stack *[]task, trail *[]spot) int {
 			at++
 			made = i.inside
 		case opSplit:
-			*stack = append(*stack, task{pc: i.other, at: at, made: made, trail: len(*trail)})
+			if !m.begin(i.lane+made, at, way) {
+				return -1
+			}
+			*stack = append(*stack, task{pc: i.other, at: at, made: made, trail: way.length()})
 			pc = i.to
 		case opJump:
 			pc = i.to
@@ -153,11 +198,7 @@ func (m *matcher) follow(t task, stack *[]task, trail *[]spot) int {
 			}
 			pc = i.other
 		case opBack:
-			g := m.groups[i.number-1]
-			if g.from == 0 {
-				return -1
-			}
-			end := m.taken(m.s[g.from-1:g.to-1], m.s, at)
+			end := m.backTo(i.number, at)
 			if end < 0 {
 				return -1
 			}
@@ -179,6 +220,15 @@ func (m *matcher) follow(t task, stack *[]task, trail *[]spot) int {
 	}
 }
 
+// backTo returns where the bytes of a group end that stand here; -1 if it was not passed, or they do not.
+func (m *matcher) backTo(number, at int) int {
+	g := m.groups[number-1]
+	if g.from == 0 {
+		return -1
+	}
+	return m.taken(m.s[g.from-1:g.to-1], m.s, at)
+}
+
 // pass notes down where a group begins or ends, and how to take that back.
 func (m *matcher) pass(i *instruction, at int, stack *[]task) {
 	g := &m.groups[i.number-1]
@@ -192,7 +242,7 @@ func (m *matcher) pass(i *instruction, at int, stack *[]task) {
 
 // ahead reports whether there is a way from an instruction on.
 func (m *matcher) ahead(pc, at int) bool {
-	k := spot{lane: pc, at: at}
+	k := mark{pc, at}
 	found, known := m.looks[k]
 	if !known {
 		found = m.run(pc, at) >= 0
