@@ -6,6 +6,7 @@ import (
 	"threadbare/api"
 	"threadbare/code"
 	"threadbare/list"
+	"threadbare/names"
 )
 
 // maxFaces and maxKept are how many texts, and how many bytes of them, are kept with their code at most; beyond it all is made anew.
@@ -102,7 +103,7 @@ func (x *Machine) Find(space, name string) int {
 func (x *Machine) search(space, name string) int {
 	l, e := x.tree.Candidates(space, name)
 	if e != api.OK {
-		l, _ = x.tree.Candidates("::", name)
+		l = []string{names.Canonical("::", name)}
 	}
 	for _, c := range l {
 		if n := x.table.Find(c); n != 0 {
