@@ -17,19 +17,72 @@ type operator struct {
 	do    func(a, b string) (result, problem string)
 }
 
+// operators returns all operators of two operands by their names.
 func operators() map[string]operator {
-	return map[string]operator{
-		"||": {level: 1}, "&&": {level: 2},
-		"|": {3, false, numbers(big.Or)}, "^": {4, false, numbers(big.Xor)}, "&": {5, false, numbers(big.And)},
-		"eq": {6, false, equal}, "ne": {6, false, opposite(equal)}, "in": {6, false, element}, "ni": {6, false, opposite(element)},
-		"==": {7, false, compared(func(c int) bool { return c == 0 })}, "!=": {7, false, compared(func(c int) bool { return c != 0 })},
-		"<": {8, false, compared(func(c int) bool { return c < 0 })}, ">": {8, false, compared(func(c int) bool { return c > 0 })},
-		"<=": {8, false, compared(func(c int) bool { return c <= 0 })}, ">=": {8, false, compared(func(c int) bool { return c >= 0 })},
-		"<<": {9, false, shift(1)}, ">>": {9, false, shift(-1)},
-		"+": {10, false, numbers(big.Add)}, "-": {10, false, numbers(big.Sub)},
-		"*": {11, false, numbers(big.Mul)}, "/": {11, false, numbers(quotient)}, "%": {11, false, numbers(rest)},
-		"**": {12, true, numbers(big.Pow)},
+	m := map[string]operator{}
+	for _, name := range []string{"||", "&&", "|", "^", "&", "eq", "ne", "in", "ni", "==", "!=", "<", ">", "<=", ">=", "<<", ">>", "+", "-", "*", "/", "%", "**"} {
+		m[name] = operatorOf(name)
 	}
+	return m
+}
+
+// operatorOf returns one of them, without making all: it is asked for each operation.
+func operatorOf(name string) operator {
+	switch name {
+	case "||":
+		return operator{level: 1}
+	case "&&":
+		return operator{level: 2}
+	case "|":
+		return operator{3, false, numbers(big.Or)}
+	case "^":
+		return operator{4, false, numbers(big.Xor)}
+	case "&":
+		return operator{5, false, numbers(big.And)}
+	case "eq":
+		return operator{6, false, equal}
+	case "ne":
+		return operator{6, false, opposite(equal)}
+	case "in":
+		return operator{6, false, element}
+	case "ni":
+		return operator{6, false, opposite(element)}
+	case "==":
+		return operator{7, false, compared(func(c int) bool { return c == 0 })}
+	case "!=":
+		return operator{7, false, compared(func(c int) bool { return c != 0 })}
+	}
+	return higherOperatorOf(name)
+}
+
+func higherOperatorOf(name string) operator {
+	switch name {
+	case "<":
+		return operator{8, false, compared(func(c int) bool { return c < 0 })}
+	case ">":
+		return operator{8, false, compared(func(c int) bool { return c > 0 })}
+	case "<=":
+		return operator{8, false, compared(func(c int) bool { return c <= 0 })}
+	case ">=":
+		return operator{8, false, compared(func(c int) bool { return c >= 0 })}
+	case "<<":
+		return operator{9, false, shift(1)}
+	case ">>":
+		return operator{9, false, shift(-1)}
+	case "+":
+		return operator{10, false, numbers(big.Add)}
+	case "-":
+		return operator{10, false, numbers(big.Sub)}
+	case "*":
+		return operator{11, false, numbers(big.Mul)}
+	case "/":
+		return operator{11, false, numbers(quotient)}
+	case "%":
+		return operator{11, false, numbers(rest)}
+	case "**":
+		return operator{12, true, numbers(big.Pow)}
+	}
+	return operator{}
 }
 
 // prefix is an operator of one operand, or a function, by its least and greatest number of operands (-1: any).
@@ -239,7 +292,7 @@ func applied(forms map[string]prefix, kind, name string, args []string) (string,
 
 // Apply does an operator of one or two operands.
 func Apply(op string, args []string) (result, problem string) {
-	if f := operators()[op]; len(args) == 2 && f.do != nil {
+	if f := operatorOf(op); len(args) == 2 && f.do != nil {
 		return f.do(args[0], args[1])
 	}
 	return applied(prefixes(), "operator", op, args)
