@@ -237,12 +237,18 @@ func (w *world) add(kind string, c channel) string {
 
 // OnClose lets something be told of each channel that is closed (layer 31).
 func OnClose(x *core.Machine, told func(name string)) {
+	if !x.Alive() {
+		return
+	}
 	w := worldOf(x)
 	w.closed = append(w.closed, told)
 }
 
 // Ready reports whether a channel is there, whether it is readable, and, of a pipe, how many raw bytes wait.
 func Ready(x *core.Machine, name string) (there, ready, file bool, waiting int) {
+	if !x.Alive() {
+		return false, false, false, 0
+	}
 	switch c := worldOf(x).channels[name].(type) {
 	case *stream:
 		return true, c.pipe.Ready(), false, c.pipe.Waiting()
