@@ -33,7 +33,7 @@ func TestPack(t *testing.T) {
 		layout    string
 		fields, n int
 		e, e2     api.Errno
-	}{{"a3 s H4x2@1c", 4, 9, 0, 0}, {"c*", 1, 0, 0, api.ErrRange}, {"x*@*b9", 1, 3, 0, 0}, {"@20@3h3", 1, 20, 0, 0}, {"q", 0, 0, api.ErrSyntax, api.ErrSyntax}, {"a*q", 0, 0, api.ErrSyntax, api.ErrSyntax}, {"", 0, 0, 0, 0}, {"c0a0H2i3", 4, 13, 0, 0}} {
+	}{{"a3 s H4x2@1c", 4, 9, 0, 0}, {"c*", 1, 0, 0, api.ErrRange}, {"x*@*b9", 1, 3, 0, 0}, {"@20@3h3", 1, 20, 0, 0}, {"q", 0, 0, api.ErrSyntax, api.ErrSyntax}, {"a*q", 0, 0, api.ErrSyntax, api.ErrSyntax}, {"", 0, 0, 0, 0}, {"c0a0H2i3", 4, 13, 0, 0}, {"Iu", 1, 4, 0, 0}, {"cu3 xSu wu0", 3, 6, 0, 0}, {"iu*", 1, 0, 0, api.ErrRange}, {"c au", 0, 0, api.ErrSyntax, api.ErrSyntax}} {
 		fields, e := Fields(c.layout)
 		n, e2 := Length(c.layout)
 		if fields != c.fields || n != c.n || e != c.e || e2 != c.e2 {

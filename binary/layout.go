@@ -92,7 +92,7 @@ func countDigits(s string) int {
 	return n
 }
 
-// checked returns the fields of a layout; to pack there is no u.
+// checked returns the fields of a layout; to pack there is no u: it belongs to a layout, but means nothing to Pack.
 func checked(layout string, pack bool) ([]field, api.Errno) {
 	var l []field
 	for f := range fields(layout) {
