@@ -136,6 +136,31 @@ func TestLinks(t *testing.T) {
 	want(t, "of another space", both(s.Get(room, "w(k)")), "new 0")
 }
 
+// 15.3: an element of an element that lies in the name itself is ErrState, ahead of ErrKind.
+func TestLinkIntoItself(t *testing.T) {
+	s := New()
+	want(t, "Link", s.Link(0, "a", 0, "b()"), api.OK)
+	for _, word := range []string{"a()", "a(x)", "a", "b", "b()"} {
+		want(t, "Link b to "+word, s.Link(0, "b", 0, word), api.ErrState)
+	}
+	want(t, "Link to an element of what is none of it", s.Link(0, "c", 0, "a()"), api.ErrKind)
+	want(t, "b is no link", s.Linked(0, "b"), false)
+}
+
+// 15.3, P15.4: what a name was by itself is not forgotten while it is a link.
+func TestLinkedAnewToItself(t *testing.T) {
+	s := New()
+	c := s.Push()
+	want(t, "Link", all(s.Link(0, "y", c, "x"), s.Link(0, "z", c, "x(1)"), s.Link(c, "x", 0, "other"), s.Link(c, "x", 0, "more")), "0 0 0 0")
+	for _, word := range []string{"y", "z", "y(1)", "z(1)"} {
+		want(t, "Link x to "+word, s.Link(c, "x", 0, word), api.ErrState)
+	}
+	s.Set(c, "x", "5")
+	want(t, "linked as before", all(both(s.Get(0, "more")), s.Kind(0, "y"), s.Link(c, "x", c, "x"), both(s.Get(c, "x"))), "5 0 0 0 5 0")
+	s.Set(0, "y", "own")
+	want(t, "linked anew, though set by itself", all(s.Link(c, "x", 0, "other"), s.Link(c, "x", 0, "y"), both(s.Get(0, "y"))), "0 9 own 0")
+}
+
 // 15.4
 func TestTelling(t *testing.T) {
 	s := New()
