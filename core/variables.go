@@ -77,11 +77,15 @@ func (x *Machine) reading(ref Ref) Result {
 	return OK("")
 }
 
-// cell returns the cell of a variable; of an element that there is not, that of its array.
+// cell returns the cell of a variable; of an element that there is not, that of its array. An element's word of a scalar means none.
 func (x *Machine) cell(ref Ref) *vars.Cell {
 	c := x.vars.Peek(ref.Scope, ref.Word)
-	if c == nil && ref.Element {
-		c = x.vars.Peek(ref.Scope, vars.Word{Name: ref.Name})
+	if c != nil || !ref.Element {
+		return c
+	}
+	c = x.vars.Peek(ref.Scope, vars.Word{Name: ref.Name})
+	if c == nil || !c.Divided() {
+		return nil
 	}
 	return c
 }

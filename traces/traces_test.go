@@ -50,6 +50,18 @@ func TestVariables(t *testing.T) {
 	})
 }
 
+// 27.1: an element's word of what is no array does no trace of it
+func TestReadOfNoElement(t *testing.T) {
+	does(t, map[string]string{
+		note + "set a 4; trace add variable a read note; catch {list $a()} m; list $m [info exists log]":                                                          "{array: a()} 0",
+		note + "set a 4; trace add variable a read note; catch {incr a(x)} m; list $m [info exists log]":                                                          "{array: a(x)} 0",
+		"set a 4; trace add variable a read no; list $a()":                                                                                                        "1 array: a()",
+		note + "trace add variable a read note; catch {list $a(x)} m; list $m $log":                                                                               "{variable: a(x)} {{a x read}}",
+		note + "upvar 0 b(1) a; trace add variable b read note; trace add variable a read note; catch {set a(x)} m; list $m [info exists log]":                    "{array: a(x)} 0",
+		note + "trace add variable a(1) read {note e}; trace add variable a read {note a}; upvar 0 a(1) y; catch {set y}; set a 5; catch {set y} m; list $m $log": "{array: y} {{a y {} read} {e y {} read} {e y {} read}}",
+	})
+}
+
 // 27.1: commands
 func TestCommandTraces(t *testing.T) {
 	does(t, map[string]string{

@@ -121,8 +121,16 @@ func (c *Cell) Elements() []*Cell {
 	return l
 }
 
-// Array returns the array of an element; nil for what is none.
-func (c *Cell) Array() *Cell { return c.owner }
+// Array returns the array of an element; nil for what is none, and while the array is a scalar.
+func (c *Cell) Array() *Cell {
+	if c.broken() {
+		return nil
+	}
+	return c.owner
+}
+
+// Divided reports whether the cell is an array, or may become one by an element.
+func (c *Cell) Divided() bool { return c.owner == nil && c.kind != scalar }
 
 // Changes returns how often the cell was set or unset.
 func (c *Cell) Changes() int { return c.changes }
