@@ -147,6 +147,16 @@ func (x *Machine) UnsetRef(ref Ref) Result {
 	return OK("")
 }
 
+// UnsetQuietly unsets a variable without its traces being done; they go all the same.
+func (x *Machine) UnsetQuietly(ref Ref) Result {
+	c := x.vars.Peek(ref.Scope, ref.Word)
+	if c != nil && !x.Busy[c] {
+		x.Busy[c] = true
+		defer delete(x.Busy, c)
+	}
+	return x.UnsetRef(ref)
+}
+
 // Kind returns the kind of a variable.
 func (x *Machine) Kind(ref Ref) int { return x.vars.KindAt(ref.Scope, ref.Word) }
 

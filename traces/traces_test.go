@@ -62,6 +62,71 @@ func TestReadOfNoElement(t *testing.T) {
 	})
 }
 
+// 27.1: unset traces are all done, whatever their outcomes
+func TestUnsetTracesAllDone(t *testing.T) {
+	does(t, map[string]string{
+		note + "trace add variable x unset note; trace add variable x unset no; trace add variable x unset {error no ;}; set x 7; unset x; set log":          "{x {} unset}",
+		note + "trace add variable a unset {note 1}; trace add variable a unset no; trace add variable a(1) unset {note 2}; set a(1) 7; unset a(1); set log": "{1 a 1 unset} {2 a 1 unset}",
+		note + "namespace eval n {variable v 1}; trace add variable n::v unset note; trace add variable n::v unset no; namespace delete n; set log":          "{v {} unset}",
+		note + "proc b args {return -code break}; trace add variable x unset note; trace add variable x unset b; set x 7; unset x; set log":                  "{x {} unset}",
+		note + "trace add variable x write {note 1}; trace add variable x write no; catch {set x 7} m; list $m [info exists log]":                            "{trace: command: no} 0",
+		note + "trace add variable x unset {note 1}; trace add variable x unset {note 2}; set x 1; rename note {}; unset x; trace info variable x":           "",
+		note + "proc f {} {}; trace add command f delete {note 1}; trace add command f delete no; rename f {}; set log":                                      "{1 ::f {} delete}",
+	})
+	for _, c := range []struct {
+		setup, script, then, want string
+		steps                     int
+	}{
+		{"set x 7; trace add variable x unset {p 1}; trace add variable x unset {p 2}", "unset x", "", "5 steps", 2},
+		{"set x 7; trace add variable x unset {p 1}; trace add variable x unset {p 2}", "unset x", "", "", 3},
+		{"set x 7; trace add variable x unset {p 1}; trace add variable x unset {p 2}", "namespace delete ::", "", "5 steps", 2},
+		{"set n 7; trace add variable n {write unset} {p 1}", "unset n", "set n 0", "1 trace: command: p", 1},
+		{"set n 7; trace add variable n {write unset} {p 1}", "unset n", "set n 0", "0", 2},
+		{"set a(1) 7; trace add variable a unset {p 1}; trace add variable a(1) write {p 2}", "unset a", "set a(1) 0", "1 trace: command: p", 1},
+		{"set a(1) 7; trace add variable a unset {p 1}; trace add variable a(1) write {p 2}", "unset a", "set a(1) 0", "0", 2},
+	} {
+		x := New()
+		x.Eval(c.setup, 100)
+		o := x.Eval(c.script, c.steps)
+		if c.then != "" {
+			o = x.Eval(c.then, 100)
+		}
+		if told(o) != c.want {
+			t.Errorf("%s; %s (%d): %s, not %s", c.setup, c.script, c.steps, told(o), c.want)
+		}
+	}
+}
+
+// 27.1: the traces of what is unset go behind their being done
+func TestTracesGoBehind(t *testing.T) {
+	does(t, map[string]string{
+		"proc u args {trace remove variable ::x unset v; list}; proc v args {set ::m 1}; set x 1; trace add variable x unset v; trace add variable x unset u; unset x; info exists m":                                            "0",
+		"proc u args {lappend ::l [trace info variable ::x]}; trace add variable x unset u; trace add variable x {read unset} u; set x 1; unset x; list $l [trace info variable x]":                                              "{{{{read unset} u} {unset u}} {{{read unset} u} {unset u}}} {}",
+		"proc u args {lappend ::l [trace info variable ::a(1)]}; trace add variable a unset u; trace add variable a(1) read nop; set a(1) 1; unset a; list $l [trace info variable a(1)]":                                        "{{{read nop}}} {}",
+		"proc u args {trace add variable ::x write w; trace add variable ::x unset w}; proc w args {lappend ::l $args; list}; trace add variable x unset u; set x 1; unset x; set x 2; unset x; list $l [trace info variable x]": "{{x {} write} {x {} unset}} {}",
+		"proc r args {unset ::x; set ::x 2}; proc q args {set ::done 1}; trace add variable x read q; trace add variable x read r; set x 1; list [set x] [info exists done] [trace info variable x]":                             "2 0 {}",
+		"proc e args {rename f {}; list}; proc q args {set ::done 1; list}; proc f {} {}; trace add execution f enter q; trace add execution f enter e; catch f m; list $m [info exists done]":                                   "{command: f} 0",
+		"proc e args {rename f {}; list}; proc q args {set ::done 1; list}; proc f {} {list a}; trace add execution f leave q; trace add execution f leave e; list [f] [info exists done]":                                       "a 0",
+		"proc e args {rename g {}; list}; proc q args {set ::done 1; list}; proc f {} {list a}; trace add command f {rename delete} q; trace add command f rename e; rename f g; list [info exists done] [info commands g]":      "0 {}",
+	})
+}
+
+// 27.1: a deleted namespace unsets what is set alone
+func TestTracesOfADeletedNamespace(t *testing.T) {
+	does(t, map[string]string{
+		"namespace eval n {variable v}; trace add variable n::v read {lappend log}; namespace delete n; namespace eval n {}; trace info variable n::v":                                                                                                            "{read {lappend log}}",
+		"namespace eval n {variable v 1}; trace add variable n::v read {lappend log}; namespace delete n; namespace eval n {}; trace info variable n::v":                                                                                                          "",
+		note + "namespace eval n {variable v}; trace add variable n::v unset note; namespace delete n; list [info exists log]":                                                                                                                                    "0",
+		"namespace eval n {variable a; set a(1) 1}; trace add variable n::a(2) write {lappend log}; namespace delete n; namespace eval n {}; trace info variable n::a(2)":                                                                                         "",
+		"proc u args {set ::n::w 1}; namespace eval n {variable v 1 w}; trace add variable n::v unset u; trace add variable n::w {write unset} {lappend ::log}; namespace delete n; namespace eval n {}; list [info exists n::w] $log [trace info variable n::w]": "0 {::n::w {} write} {}",
+	})
+	x := New()
+	x.Eval("trace add variable x read }", 1)
+	if got := told(x.Eval("namespace delete :\n$x", 1)); got != "5 steps" {
+		t.Error(got)
+	}
+}
+
 // 27.1: commands
 func TestCommandTraces(t *testing.T) {
 	does(t, map[string]string{

@@ -195,6 +195,8 @@ func TestCells(t *testing.T) {
 	s.Set(0, "b", "1")
 	_, e = s.Find(0, Parted("b(1)"))
 	want(t, "Find of an element of a scalar", e, api.ErrKind)
-	s.Clear(0)
-	want(t, "Clear", len(s.Names(0, "*")), 0)
+	s.Set(0, "a", "scalar")
+	want(t, "Array and Divided", all(c.Array() == nil, s.Peek(0, Parted("a")).Divided(), c.Divided(), s.Peek(0, Parted("b")).Divided()), "true false false false")
+	s.Unset(0, "a")
+	want(t, "Array and Divided", all(c.Array().Divided(), c.Divided()), "true false")
 }
