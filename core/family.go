@@ -17,12 +17,12 @@ func (x *Machine) within(y *Machine) bool {
 	return false
 }
 
-// Into does something in a machine of the family, in its global scope and namespace, for this one. What ends the other machine's script is an error here, but not within or below that machine; a tail call is not done.
+// Into does something in a machine of the family, in its global scope and namespace, for this one. What ends the script of that machine, or of one between them, is an error here, but not within or below the machine that it ends; a tail call is not done.
 func (x *Machine) Into(y *Machine, do func() Result) Result {
 	defer y.back(y.frames)
 	y.frames = y.frames[:1:1]
 	r := do()
-	if r.Code == api.CStop && r.From == y && !x.within(y) {
+	if r.Code == api.CStop && r.From != nil && !x.within(r.From) {
 		return Error(r.Text)
 	}
 	return Caught(r)
