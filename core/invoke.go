@@ -193,7 +193,7 @@ func (x *Machine) do(number int, words []string) Result {
 // Install lays a command in ::, as the machine is made.
 func (x *Machine) Install(name string, least, most int, do Command) {
 	n, _ := x.table.Define("::" + name)
-	x.commands[n] = &Entry{Least: least, Most: most, Do: do}
+	x.commands[n] = &Entry{Least: least, Most: most, Do: do, Number: n}
 }
 
 // Fresh returns the canonical name that a command is made with: its namespace must be there.
@@ -205,12 +205,12 @@ func (x *Machine) Fresh(name string) (string, Result) {
 	return full, OK("")
 }
 
-// Define makes a command with a canonical name; one that had the name goes, with its imports.
-func (x *Machine) Define(name string, c *Entry) (int, Result) {
+// Define makes a command with a canonical name; one that had the name goes, with its imports. It can be done while that is told.
+func (x *Machine) Define(name string, c *Entry) Result {
 	going, olds := x.going(x.table.Find(name))
-	n, _ := x.table.Define(name)
-	x.commands[n] = c
-	return n, x.tellGone(going, olds)
+	c.Number, _ = x.table.Define(name)
+	x.commands[c.Number] = c
+	return x.tellGone(going, olds)
 }
 
 // Import makes a command that stands for another one.

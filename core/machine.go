@@ -14,11 +14,12 @@ import (
 // Command does a command of words; the first one is its name.
 type Command func(x *Machine, words []string) Result
 
-// Entry is a command: how many words it takes behind its name (-1: any number), what it does, and what a layer keeps of it.
+// Entry is a command: how many words it takes behind its name (-1: any number), what it does, and what a layer keeps of it. Number is its own, from the moment on in which it is made.
 type Entry struct {
 	Least, Most int
 	Do          Command
 	Kind        any
+	Number      int
 }
 
 // Frame is a level: its scope, its namespace, the words that began it, and what a layer keeps of it.

@@ -27,7 +27,7 @@ func doSelf(x *core.Machine, words []string) core.Result {
 	case !r.Good():
 		return r
 	case len(words) == 1:
-		return core.OK(nameOf(x, c.number))
+		return core.OK(nameOf(x, c.Number))
 	case words[1] == "class":
 		return core.OK(classOf(x, c.links[c.at]))
 	case words[1] == "method":
@@ -41,7 +41,7 @@ func classOf(x *core.Machine, l link) string {
 	if l.of == nil {
 		return ""
 	}
-	return nameOf(x, l.of.number)
+	return nameOf(x, l.of.Number)
 }
 
 func doNext(x *core.Machine, words []string) core.Result {
@@ -94,7 +94,7 @@ func ofObject(do func(a asker, o *object) core.Result) func(a asker) core.Result
 func (a asker) named(l []*class) core.Result {
 	var r []string
 	for _, c := range l {
-		r = append(r, nameOf(a.Machine, c.number))
+		r = append(r, nameOf(a.Machine, c.Number))
 	}
 	return core.Join(r)
 }
@@ -121,7 +121,7 @@ func (a asker) instances(c *class) core.Result {
 	var l []string
 	for _, o := range worldOf(a.Machine).objects {
 		if o.class == c {
-			l = append(l, nameOf(a.Machine, o.number))
+			l = append(l, nameOf(a.Machine, o.Number))
 		}
 	}
 	return core.Join(l)
@@ -165,7 +165,7 @@ func objectSubs() map[string]core.Sub[asker] {
 		return core.Sub[asker]{Least: 1, Most: 1, Do: ofObject(do)}
 	}
 	return map[string]core.Sub[asker]{
-		"class":   asked(func(a asker, o *object) core.Result { return core.OK(nameOf(a.Machine, o.class.number)) }),
+		"class":   asked(func(a asker, o *object) core.Result { return core.OK(nameOf(a.Machine, o.class.Number)) }),
 		"mixins":  asked(func(a asker, o *object) core.Result { return a.named(o.mixins) }),
 		"methods": asked(asker.methods),
 		"chain":   {Least: 2, Most: 2, Do: ofObject(asker.chain)},
@@ -275,7 +275,7 @@ func (d definer) classes() ([]*class, core.Result) {
 	}
 	for _, c := range l {
 		if d.class != nil && classes().reaches(c, d.class) {
-			return nil, core.Fail("circle", nameOf(d.Machine, d.class.number))
+			return nil, core.Fail("circle", nameOf(d.Machine, d.class.Number))
 		}
 	}
 	return l, core.OK("")

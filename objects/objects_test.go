@@ -96,3 +96,12 @@ func TestClasses(t *testing.T) {
 		t.Errorf("Commands = %q", Commands())
 	}
 }
+
+// 29.1: a class and an object in the place of a command are there while its delete traces are done
+func TestMadeInAPlace(t *testing.T) {
+	does(t, map[string]string{
+		"proc o {} {}; proc d args {lappend ::log [o m]}; trace add command o delete d; class create A {{method m {} {self}}}; A create o; set log":            "::o",
+		"proc A {} {}; proc d args {lappend ::log [object class [A new]] [class instances A]}; trace add command A delete d; class create A {}; list $log [A]": "1 words: A",
+		"proc A {} {}; proc d args {lappend ::log [object class [A new]]}; trace add command A delete d; class create A {}; list $log [class instances A]":     "::A ::oo::1",
+	})
+}

@@ -127,6 +127,14 @@ func TestTracesOfADeletedNamespace(t *testing.T) {
 	}
 }
 
+// 27.1: the command that stands in the place of one that went can be done by its delete traces
+func TestDefinedAnew(t *testing.T) {
+	does(t, map[string]string{
+		"namespace eval n {proc f {} {}}; proc d args {lappend ::log [n::f]}; trace add command n::f delete d; namespace eval n {proc f {} {namespace current}}; set log":                                                        "::n",
+		"namespace eval n {proc f {} {}; proc g {} {list ng}}; proc g {} {list g}; proc d args {lappend ::log [n::f one]}; trace add command n::f delete d; namespace eval n {namespace ensemble f {one g}}; list $log [n::f o]": "ng ng",
+	})
+}
+
 // 27.1: commands
 func TestCommandTraces(t *testing.T) {
 	does(t, map[string]string{
