@@ -148,13 +148,13 @@ func (x *Machine) UnsetRef(ref Ref) Result {
 }
 
 // UnsetQuietly unsets a variable without its traces being done; they go all the same.
-func (x *Machine) UnsetQuietly(ref Ref) Result {
+func (x *Machine) UnsetQuietly(ref Ref) {
 	c := x.vars.Peek(ref.Scope, ref.Word)
 	if c != nil && !x.Busy[c] {
 		x.Busy[c] = true
 		defer delete(x.Busy, c)
 	}
-	return x.UnsetRef(ref)
+	x.UnsetRef(ref)
 }
 
 // Kind returns the kind of a variable.

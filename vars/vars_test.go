@@ -161,6 +161,18 @@ func TestLinkedAnewToItself(t *testing.T) {
 	want(t, "linked anew, though set by itself", all(s.Link(c, "x", 0, "other"), s.Link(c, "x", 0, "y"), both(s.Get(0, "y"))), "0 9 own 0")
 }
 
+// What a later layer needs of links: they go, and what the names were by themselves stays.
+func TestUnlink(t *testing.T) {
+	s := New()
+	room := s.Room("n")
+	s.Set(0, "g", "1")
+	want(t, "Link", all(s.Link(0, "y", room, "x"), s.Link(room, "x", 0, "g"), s.Link(room, "z", 0, "g"), s.Set(room, "own", "2"), s.Set(0, "y", "3")), "0 0 0 0 0")
+	want(t, "Names", s.Names(room, "*"), "[own x z]")
+	s.Unlink(room)
+	s.Unlink(9)
+	want(t, "Unlink", all(s.Names(room, "*"), s.Linked(room, "x"), both(s.Get(room, "x")), both(s.Get(0, "g")), s.Linked(0, "y")), "[own x] false 3 0 1 0 true")
+}
+
 // 15.4
 func TestTelling(t *testing.T) {
 	s := New()
