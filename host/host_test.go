@@ -74,6 +74,27 @@ func TestSession(t *testing.T) {
 	want(t, "Line of a zero host", n, api.ErrState)
 }
 
+// 33.1: what breaks a channel, or is fed to a broken one, also to one that is closed, is no refusal: turns are done.
+func TestFeedOfBroken(t *testing.T) {
+	h := New()
+	for _, c := range []struct {
+		e    api.Event
+		want string
+	}{
+		{script(100, "lay stdin hex; event stdin readable {append log <[read stdin]>}"), `0 "append log <[read stdin]>" "" "" 0`},
+		{feed("stdin", "410Az"), `0 "" "" "" 0`}, {feed("stdin", "42"), `0 "" "" "" 0`}, {script(100, "after 0 {puts due}"), `0 "after1" "" "" 0`}, {feed("stdin", ""), `0 "" "due\n" "" 0`}, {end("stdin"), `0 "" "" "" 0`}, {end("stdin"), `0 "" "" "" 9`},
+		{script(100, "after 0 {puts more}; set log"), `0 "<A\n><>" "" "" 0`}, {feed("stdin", ""), `0 "" "more\n" "" 0`}, {feed("stdin", "43"), `0 "" "" "" 0`},
+		{script(100, "lassign [pair] a b; lay $b hex; puts $a z; catch {close $a}"), `0 "1" "" "" 0`}, {feed("pipe2", "44"), `0 "" "" "" 0`}, {end("pipe2"), `0 "" "" "" 9`},
+		{script(100, "lassign [pair] a b; close $a"), `0 "" "" "" 0`}, {feed("pipe4", "44"), `0 "" "" "" 9`}, {script(100, "set log"), `0 "<A\n><><><><>" "" "" 0`},
+	} {
+		want(t, fmt.Sprint("Do of ", c.e), done(h, c.e), c.want)
+	}
+	want(t, "Count", h.Count(), 13)
+	again, events, e := Replay(h.Book())
+	want(t, "Replay", fmt.Sprint(events, e), "13 0")
+	want(t, "the session again", state(again), state(h))
+}
+
 // 33.3
 func TestLines(t *testing.T) {
 	long := strings.Repeat("x", api.MaxText)

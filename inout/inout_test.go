@@ -96,6 +96,53 @@ func TestChannels(t *testing.T) {
 	}
 }
 
+// 30.1: Feed's errors in their order, whatever broke and closed the channel.
+func TestFeedOfBroken(t *testing.T) {
+	long := rep("0", 2000001)
+	pair := "lassign [pair] a b; "
+	for _, c := range []struct {
+		script, channel, raw string
+		end                  bool
+		fed, ended           api.Errno
+	}{
+		{"lay stdin hex", "stdin", "z", false, api.ErrKind, api.OK},
+		{"lay stdin hex", "stdin", "z", true, api.ErrKind, api.ErrState},
+		{"lay stdin rot; lay stdin hex", "stdin", "4z", true, api.ErrKind, api.ErrState},
+		{"interp create -safe c; interp eval c {lay stdin hex}", "stdin", "z", true, api.ErrKind, api.ErrState},
+		{pair + "lay $b hex", "pipe2", "z", false, api.ErrKind, api.OK},
+		{pair + "lay $b hex", "pipe2", "z", true, api.ErrKind, api.ErrState},
+		{pair + "lay $b hex; puts $a z; catch {flush $a}", "pipe2", "", false, api.ErrKind, api.OK},
+		{pair + "lay $b hex; puts $a z; catch {flush $a}", "pipe2", "", true, api.ErrKind, api.ErrState},
+		{pair + "lay $b hex; puts $a z; catch {close $a}", "pipe2", "", false, api.ErrKind, api.ErrState},
+		{"lay stdin hex", "stdin", "4", true, api.ErrState, api.ErrState},
+		{pair + "lay $b hex; puts $a 41; close $a", "pipe2", "", false, api.ErrKind, api.ErrState},
+		{pair + "close $a", "pipe2", "", false, api.ErrState, api.ErrState},
+	} {
+		x := New()
+		x.Eval(c.script, 100)
+		Feed(x, c.channel, c.raw)
+		if c.end {
+			End(x, c.channel)
+		}
+		for _, raw := range []string{"", "z", "00", long} {
+			if e := Feed(x, c.channel, raw); e != c.fed {
+				t.Errorf("%s, %q, %v: Feed of %d bytes: %d, not %d", c.script, c.raw, c.end, len(raw), e, c.fed)
+			}
+		}
+		if e := End(x, c.channel); e != c.ended {
+			t.Errorf("%s, %q, %v: End: %d, not %d", c.script, c.raw, c.end, e, c.ended)
+		}
+	}
+	x := New()
+	x.Eval("lay stdin hex", 10)
+	if Feed(x, "stdin", rep("z", 2000001)) != api.ErrLimit || Feed(x, "stdin", "41") != api.OK {
+		t.Error("what is too long does not come in, and breaks nothing")
+	}
+	if Feed(x, "stdin", "42z") != api.ErrKind || told(x.Eval("lift stdin; read stdin", 10)) != "AB" || Feed(x, "stdin", "") != api.ErrKind {
+		t.Error("a broken channel keeps what came in, and stays broken without its filter")
+	}
+}
+
 // 30.1: files
 func TestFiles(t *testing.T) {
 	long := rep("x", 61)
